@@ -1,6 +1,9 @@
 package names
 
-import "testing"
+import (
+	"strings"
+	"testing"
+)
 
 func TestPaths(t *testing.T) {
 	for _, s := range []string{"a", "z", "0", "9", "/", "a/b", "//", "/a/", "0123456789abcdef", "ghijklmnopqrstuv"} {
@@ -18,14 +21,29 @@ func TestPaths(t *testing.T) {
 	}
 }
 
-// Of all bytes these are right, and no others.
-func TestBytesOfPaths(t *testing.T) {
-	right := map[byte]int{}
-	for _, c := range []byte("abcdefghijklmnopqrstuvwxyz0123456789/") {
-		right[c] = 1
+func TestNames(t *testing.T) {
+	for _, s := range []string{"a", "z", "0", "9", "adm", "12345678", "abcdefgh"} {
+		if !IsName(s) {
+			t.Errorf("%q is a name", s)
+		}
 	}
+	for _, s := range []string{"", "123456789", "a/", "/", "Adm", "a b", "a\x00", "é", "\xff"} {
+		if IsName(s) {
+			t.Errorf("%q is no name", s)
+		}
+	}
+}
+
+// Of all bytes these are right, and no others.
+func TestBytesOfNamesAndPaths(t *testing.T) {
+	const ofNames = "abcdefghijklmnopqrstuvwxyz0123456789"
 	for c := range 256 {
-		if got := IsPath(string([]byte{'a', byte(c)})); got != (right[byte(c)] == 1) {
+		s := string([]byte{byte(c)})
+		inName := strings.Contains(ofNames, s)
+		if got := IsName("a" + s); got != inName {
+			t.Errorf("byte %d in a name: %v", c, got)
+		}
+		if got := IsPath("a" + s); got != (inName || s == "/") {
 			t.Errorf("byte %d in a path: %v", c, got)
 		}
 	}

@@ -47,5 +47,8 @@ func (r *Reader) Hash() api.Hash {
 	return h
 }
 
+// Left tells the bytes that are not read yet, and leaves them so.
+func (r *Reader) Left() string { return r.left }
+
 // End gives up, if there are bytes left over.
 func (r *Reader) End() { Want(r.left == "") }

@@ -34,6 +34,9 @@ func TestPieces(t *testing.T) {
 	if !givesUp(r.End) {
 		t.Errorf("End takes bytes that are left over")
 	}
+	if s := r.Left(); s != strings.Repeat("h", 32) {
+		t.Errorf("Left: %q", s)
+	}
 	if h := r.Hash(); h != api.Hash([]byte(strings.Repeat("h", 32))) {
 		t.Errorf("Hash: %x", h)
 	}
