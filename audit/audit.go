@@ -1,4 +1,4 @@
-// Package audit: the audit log of a vault, which lies in its sinks: see DOC.md, P9.
+// Package audit: the audit log of a vault, which lies in its sinks: see DOC.md, P9 and P10.
 package audit
 
 import (
@@ -18,16 +18,35 @@ type Log struct {
 	last  api.Hash
 }
 
-// New makes a log without entries, of sinks without bytes.
-func New(l []*sink.Sink) *Log { return &Log{sinks: slices.Clone(l)} }
+// Next is an entry that is bound to the last one of a log: laid there, it is the next one.
+type Next struct {
+	bytes  string
+	Digest api.Hash
+}
+
+// Open tells the log that sinks have, and the digests of its entries, one behind the other.
+func Open(l []*sink.Sink) (*Log, []api.Hash) {
+	log := &Log{sinks: slices.Clone(l)}
+	digests := chain.Digests(log.frames())
+	log.count = len(digests)
+	if log.count > 0 {
+		log.last = digests[log.count-1]
+	}
+	return log, digests
+}
 
 // Head tells how many entries there are, and the digest of the last one (of none: bytes 0).
 func (l *Log) Head() (int, api.Hash) { return l.count, l.last }
 
-// Lay lays an entry into the sinks; false: none of them has it then, and there is no such entry.
-func (l *Log) Lay(e chain.Entry) bool {
-	entry := e.Bytes(l.last, l.count)
-	log := l.frames() + chain.Frame(entry)
+// Bind binds an entry to the last one. Nothing is laid yet.
+func (l *Log) Bind(e chain.Entry) Next {
+	bytes := e.Bytes(l.last, l.count)
+	return Next{bytes, digest.Of(bytes)}
+}
+
+// Lay lays the next entry into the sinks; false: none of them has it then, and there is no such entry.
+func (l *Log) Lay(next Next) bool {
+	log := l.frames() + chain.Frame(next.bytes)
 	laid := false
 	for _, s := range l.sinks {
 		if give(s, log) {
@@ -36,7 +55,7 @@ func (l *Log) Lay(e chain.Entry) bool {
 	}
 	if laid {
 		l.count++
-		l.last = digest.Of(entry)
+		l.last = next.Digest
 	}
 	return laid
 }

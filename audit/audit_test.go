@@ -27,6 +27,11 @@ func sinks(n int) []*sink.Sink {
 	return l
 }
 
+func open(l []*sink.Sink) *Log {
+	log, _ := Open(l)
+	return log
+}
+
 // holds tells how many frames each sink has, and checks that these are some first ones of the log.
 func holds(t *testing.T, log string, l []*sink.Sink) []int {
 	t.Helper()
@@ -51,7 +56,7 @@ func lay(t *testing.T, log *Log, l []*sink.Sink, want bool, has ...int) {
 	n, last := log.Head()
 	e := entries(n + 1)[n]
 	bytes := e.Bytes(last, n)
-	if got := log.Lay(e); got != want {
+	if got := log.Lay(log.Bind(e)); got != want {
 		t.Fatalf("P9: Lay answers %v, want %v", got, want)
 	}
 	wantN, wantLast := n, last
@@ -80,7 +85,7 @@ func wholeLog(n int) string {
 func TestAllSinksTakeAll(t *testing.T) {
 	for n := 1; n <= api.MaxSinks; n++ {
 		l := sinks(n)
-		log := New(l)
+		log := open(l)
 		if count, last := log.Head(); count != 0 || last != (api.Hash{}) {
 			t.Errorf("P6: the head of a new log: %d, %x", count, last)
 		}
@@ -94,7 +99,7 @@ func TestAllSinksTakeAll(t *testing.T) {
 func TestOneFails(t *testing.T) {
 	for i := range 3 {
 		l := sinks(3)
-		log := New(l)
+		log := open(l)
 		lay(t, log, l, true, 1, 1, 1)
 		l[i].Fail([]int{1})
 		has := []int{2, 2, 2}
@@ -107,7 +112,7 @@ func TestOneFails(t *testing.T) {
 // A sink that failed for long is given frame by frame, till an Append fails again.
 func TestFailsForLong(t *testing.T) {
 	l := sinks(2)
-	log := New(l)
+	log := open(l)
 	l[0].Fail([]int{1, 2, 3, 4, 7, 11})
 	lay(t, log, l, true, 0, 1)
 	lay(t, log, l, true, 0, 2)
@@ -122,7 +127,7 @@ func TestFailsForLong(t *testing.T) {
 // What none takes is no entry; frames that sinks had not are laid all the same.
 func TestAllFail(t *testing.T) {
 	l := sinks(3)
-	log := New(l)
+	log := open(l)
 	l[0].Fail([]int{1})
 	l[1].Fail([]int{1})
 	l[2].Fail([]int{1})
@@ -140,7 +145,7 @@ func TestAllFail(t *testing.T) {
 // The last sink alone takes each other entry, the first one the others: the log goes from one to the other.
 func TestByTurns(t *testing.T) {
 	l := sinks(2)
-	log := New(l)
+	log := open(l)
 	l[0].Fail([]int{2})
 	l[1].Fail([]int{1})
 	lay(t, log, l, true, 1, 0)
@@ -155,7 +160,7 @@ func TestByTurns(t *testing.T) {
 func TestListIsNotKept(t *testing.T) {
 	l := sinks(2)
 	mine := slices.Clone(l)
-	log := New(mine)
+	log := open(mine)
 	mine[0], mine[1] = nil, sink.New()
 	lay(t, log, l, true, 1, 1)
 	if mine[0] != nil || mine[1].Read() != "" {
@@ -166,12 +171,62 @@ func TestListIsNotKept(t *testing.T) {
 // Of sinks that somebody else wrote nothing is promised, but that every call ends.
 func TestSinksThatSomebodyElseWrote(t *testing.T) {
 	l := sinks(2)
-	log := New(l)
+	log := open(l)
 	lay(t, log, l, true, 1, 1)
 	l[0].Append("x")
-	log.Lay(entries(1)[0])
+	log.Lay(log.Bind(entries(1)[0]))
 	l[1].Append("\xff\xff")
-	log.Lay(entries(1)[0])
+	log.Lay(log.Bind(entries(1)[0]))
 	same := sink.New()
-	New([]*sink.Sink{same, same}).Lay(entries(1)[0])
+	log = open([]*sink.Sink{same, same})
+	log.Lay(log.Bind(entries(1)[0]))
+}
+
+// Opened again, in any order of the sinks, a log goes on where it ended, by the sink that has the most of it.
+func TestOpenAgain(t *testing.T) {
+	l := sinks(3)
+	log := open(l)
+	lay(t, log, l, true, 1, 1, 1)
+	l[0].Fail([]int{1, 2, 3})
+	l[2].Fail([]int{2})
+	lay(t, log, l, true, 1, 2, 2)
+	lay(t, log, l, true, 1, 3, 2)
+	for _, order := range [][]int{{0, 1, 2}, {1, 0, 2}, {2, 0, 1}, {2, 1, 0}} {
+		var m []*sink.Sink
+		for _, i := range order {
+			s := sink.New()
+			s.Append(l[i].Read())
+			m = append(m, s)
+		}
+		again, digests := Open(m)
+		if n, h := again.Head(); n != log.count || h != log.last || len(digests) != n || digests[n-1] != h {
+			t.Errorf("P10: the head of a log that is opened again: %d, want %d", n, log.count)
+		}
+		if !slices.Equal(digests, chain.Digests(wholeLog(3))) {
+			t.Errorf("P10: the digests of a log that is opened again")
+		}
+		if got := holds(t, wholeLog(3), m); got[0] != holds(t, wholeLog(3), l)[order[0]] {
+			t.Errorf("P9: Open gives frames to a sink")
+		}
+		lay(t, again, m, true, 4, 4, 4)
+	}
+	none, digests := Open(sinks(2))
+	if n, h := none.Head(); n != 0 || h != (api.Hash{}) || len(digests) != 0 {
+		t.Errorf("P6: the head of sinks without bytes: %d, %x", n, h)
+	}
+}
+
+// To bind is not to lay: another entry may have the place.
+func TestBindLaysNothing(t *testing.T) {
+	l := sinks(1)
+	log := open(l)
+	e := entries(1)[0]
+	next := log.Bind(e)
+	if next.Digest != digest.Of(e.Bytes(api.Hash{}, 0)) {
+		t.Errorf("P9: the digest of the next entry")
+	}
+	if n, _ := log.Head(); n != 0 || l[0].Read() != "" {
+		t.Errorf("P9: an entry is laid that was but bound")
+	}
+	lay(t, log, l, true, 1)
 }

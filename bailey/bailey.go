@@ -10,6 +10,7 @@ import (
 	"bailey/chain"
 	"bailey/digest"
 	"bailey/disk"
+	"bailey/journal"
 	"bailey/names"
 	"bailey/requests"
 	"bailey/sink"
@@ -19,9 +20,11 @@ import (
 
 // Vault has secrets, and an audit log.
 type Vault struct {
-	key   string
-	log   *audit.Log
-	store *store.Store
+	key     string
+	journal *journal.Journal
+	log     *audit.Log
+	store   *store.Store
+	down    bool // a request was not answered, since the disk is stopped
 }
 
 // Digest tells a digest (P3).
@@ -52,34 +55,60 @@ func Open(d *disk.Disk, l []*sink.Sink, key string, root string) (*Vault, api.Er
 	if len(l) < 1 || len(l) > api.MaxSinks || slices.Contains(l, nil) || !names.IsName(root) {
 		return nil, api.ErrArg
 	}
-	return &Vault{key: strings.Clone(key), log: audit.New(l), store: store.New(root)}, api.OK
+	j, up := journal.Open(d)
+	if !up {
+		return nil, api.ErrDown
+	}
+	log, entries := audit.Open(l)
+	v := &Vault{key: strings.Clone(key), journal: j, log: log, store: store.New(root)}
+	for _, request := range j.Requests(entries) {
+		_, outcome := v.ask(request)
+		outcome.Carry()
+	}
+	return v, api.OK
 }
 
-// Do does a request (P7 to P9).
+// Do does a request (P7 to P9, P11).
 func (v *Vault) Do(request string) string {
-	entry, outcome := v.ask(request)
-	if !v.log.Lay(entry) {
+	if v.down {
+		return ""
+	}
+	q, outcome := v.ask(request)
+	next := v.log.Bind(v.entry(request, q, outcome))
+	if outcome.Changes() && !v.journal.Write(next.Digest, request) {
+		v.down = true
+		return ""
+	}
+	if !v.log.Lay(next) {
 		return store.Refused(api.ErrAudit).Answer()
 	}
 	outcome.Carry()
 	return outcome.Answer()
 }
 
-// ask tells the entry of a request, and what this will come to once that is laid.
-func (v *Vault) ask(request string) (chain.Entry, store.Outcome) {
+// ask reads a request, and tells what it will come to.
+func (v *Vault) ask(request string) (requests.Request, store.Outcome) {
 	q, right := requests.Read(request)
-	who, outcome := request, store.Refused(api.ErrForm)
-	if right {
-		who, outcome = q.Token, v.store.Ask(q)
+	if !right {
+		return q, store.Refused(api.ErrForm)
+	}
+	return q, v.store.Ask(q)
+}
+
+// entry tells what the entry of a request has; what is no request has no op.
+func (v *Vault) entry(request string, q requests.Request, o store.Outcome) chain.Entry {
+	who := q.Token
+	if q.Op == 0 {
+		who = request
 	}
 	return chain.Entry{
 		Op:    q.Op,
 		Who:   digest.Tag(v.key, who),
 		Path:  q.Path,
 		Rest:  digest.Tag(v.key, q.Rest),
-		Error: outcome.Error,
-		More:  digest.Tag(v.key, outcome.More),
-	}, outcome
+		Error: o.Error,
+		More:  digest.Tag(v.key, o.More),
+	}
 }
 
 // Head tells how many entries there are, and the digest of the last one (P6).

@@ -10,6 +10,7 @@ import (
 
 	"bailey/api"
 	"bailey/bailey"
+	"bailey/sink"
 )
 
 // model is a vault by the document's words, as plain as can be: lists that are gone through, and a log kept whole.
@@ -61,7 +62,16 @@ func wishFor(r *rand.Rand) wish {
 	pick := func(l ...string) string { return l[r.Intn(len(l))] }
 	anyPath := func() string { return pick("a", "a/b", "a/c", "ab", "b") + pick("", "", "1", "2", "/3") }
 	anyName := func() string { return pick("adm", "joe", "eve", "t", "t") + pick("", "", "1", "2", "3", "4") }
-	w := wish{op: "PPPPGGGDLTTR"[r.Intn(12)], who: pick("adm", "adm", "adm", "adm", anyName()), path: anyPath(), value: strings.Repeat("v", r.Intn(41)), version: []int{0, 0, 1, 2, 3, 20, 21, 255}[r.Intn(8)], name: anyName(), prefix: pick("", "a", "a/", "b"), rights: 1 + r.Intn(7)}
+	w := wish{op: "PPPPGGGDLTTR"[r.Intn(12)], who: pick("adm", "adm", "adm", "adm", anyName()), path: anyPath(), value: strings.Repeat(pick("v", "w", "\x00"), r.Intn(41)), version: []int{0, 0, 1, 2, 3, 20, 21, 255}[r.Intn(8)], name: anyName(), prefix: pick("", "a", "a/", "b"), rights: 1 + r.Intn(7)}
+	w.write()
+	if r.Intn(12) == 0 {
+		w.spoil(r)
+	}
+	return w
+}
+
+// write makes its bytes out of its pieces, and what its entry tells.
+func (w *wish) write() {
 	w.tagged, w.shownPath = w.who, w.path
 	switch w.op {
 	case 'P':
@@ -79,10 +89,6 @@ func wishFor(r *rand.Rand) wish {
 	case 'R':
 		w.bytes, w.shownPath, w.behind = revoke(w.who, w.name), "", text(w.name)
 	}
-	if r.Intn(12) == 0 {
-		w.spoil(r)
-	}
-	return w
 }
 
 // spoil makes it no request: no request begins with another one.
@@ -92,6 +98,19 @@ func (w *wish) spoil(r *rand.Rand) {
 		bytes = w.bytes[:r.Intn(len(w.bytes))]
 	}
 	*w = wish{spoiled: true, bytes: bytes, tagged: bytes}
+}
+
+func newModel(sinks int) *model {
+	return &model{tokens: []modelToken{{"adm", "", 7}}, sinks: make([]modelSink, sinks)}
+}
+
+// apart: a model that goes on by itself from here, with sinks that never fail.
+func (m *model) apart() *model {
+	c := &model{m.tokens, m.paths, slices.Clone(m.frames), m.last, make([]modelSink, len(m.sinks))}
+	for i, s := range m.sinks {
+		c.sinks[i].has = s.has
+	}
+	return c
 }
 
 // answer tells the answer, and what it makes of tokens and paths.
@@ -210,6 +229,27 @@ func (s *modelSink) give(frames int) bool {
 	return true
 }
 
+// fail lets some next Appends of a sink fail.
+func (m *model) fail(r *rand.Rand, l []*sink.Sink) {
+	i := r.Intn(len(l))
+	fails := r.Perm(12)[:r.Intn(10)]
+	l[i].Fail(fails)
+	m.sinks[i].fails, m.sinks[i].appends = fails, 0
+}
+
+// agrees checks a vault's head and its sinks against the model.
+func (m *model) agrees(t *testing.T, v *bailey.Vault, l []*sink.Sink) {
+	t.Helper()
+	if n, h := v.Head(); n != len(m.frames) || h != m.last {
+		t.Fatalf("P9: Head is %d, %x, want %d, %x", n, h, len(m.frames), m.last)
+	}
+	for i, s := range m.sinks {
+		if l[i].Read() != strings.Join(m.frames[:s.has], "") {
+			t.Fatalf("P9: the sink %d has not the first %d frames of the log", i, s.has)
+		}
+	}
+}
+
 // Many requests by chance, to vaults whose sinks fail by chance: answers, heads and sinks are as the model tells.
 func TestVaultAgainstModel(t *testing.T) {
 	seen := map[string]int{}
@@ -218,13 +258,10 @@ func TestVaultAgainstModel(t *testing.T) {
 		count := 1 + seed%4
 		l := newSinks(count)
 		v := open(t, l)
-		m := &model{tokens: []modelToken{{"adm", "", 7}}, sinks: make([]modelSink, count)}
+		m := newModel(count)
 		for range 300 {
 			if r.Intn(10) == 0 {
-				i := r.Intn(count)
-				fails := r.Perm(12)[:r.Intn(10)]
-				l[i].Fail(fails)
-				m.sinks[i].fails, m.sinks[i].appends = fails, 0
+				m.fail(r, l)
 			}
 			w := wishFor(r)
 			want := m.do(w)
@@ -232,14 +269,7 @@ func TestVaultAgainstModel(t *testing.T) {
 			if got := v.Do(w.bytes); got != want {
 				t.Fatalf("P7: seed %d: Do(%q) = %q, want %q", seed, w.bytes, got, want)
 			}
-			if n, h := v.Head(); n != len(m.frames) || h != m.last {
-				t.Fatalf("P9: seed %d: Head is %d, %x, want %d, %x", seed, n, h, len(m.frames), m.last)
-			}
-			for i, s := range m.sinks {
-				if l[i].Read() != strings.Join(m.frames[:s.has], "") {
-					t.Fatalf("P9: seed %d: the sink %d has not the first %d frames of the log", seed, i, s.has)
-				}
-			}
+			m.agrees(t, v, l)
 		}
 		for i, s := range m.sinks {
 			checkSink(t, l[i].Read(), s.has, m.frames)

@@ -3,6 +3,7 @@ package chain
 import (
 	"crypto/sha256"
 	"math"
+	"slices"
 	"strings"
 	"testing"
 
@@ -252,4 +253,22 @@ func FuzzVerify(f *testing.F) {
 			t.Errorf("P4: Verify answers %d, %d", e, place)
 		}
 	})
+}
+
+func TestDigests(t *testing.T) {
+	l := sample()
+	log, _ := chained(hashOf, l...)
+	var want []api.Hash
+	for n := range l {
+		_, head := chained(hashOf, l[:n+1]...)
+		want = append(want, head)
+	}
+	if got := Digests(log); !slices.Equal(got, want) {
+		t.Errorf("P10: the digests of a log are %x, want %x", got, want)
+	}
+	for cut, n := range map[int]int{0: 0, 1: 0, len(log) - 1: len(l) - 1} {
+		if got := Digests(log[:cut]); !slices.Equal(got, want[:n]) {
+			t.Errorf("P10: there are %d digests ahead of a frame that is wrong, want %d", len(got), n)
+		}
+	}
 }

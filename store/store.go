@@ -60,9 +60,12 @@ func Refused(e api.Errno) Outcome { return Outcome{Error: e} }
 // Answer tells the answer's bytes.
 func (o Outcome) Answer() string { return pack.Byte(byte(o.Error)) + o.More }
 
+// Changes tells whether there is anything to be done.
+func (o Outcome) Changes() bool { return o.change != nil }
+
 // Carry does what was asked for. It is called once at most, ahead of the next Ask.
 func (o Outcome) Carry() {
-	if o.change != nil {
+	if o.Changes() {
 		o.change()
 	}
 }

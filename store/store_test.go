@@ -136,3 +136,27 @@ func TestListRises(t *testing.T) {
 	}
 	expect(t, s, "L\x03adm\x00", text("/", "0", "a", "a/", "a/b", "a0", "ab", "b"), "L\x03adm\x01a", text("a", "a/", "a/b", "a0", "ab"), "L\x03adm\x02a/", text("a/", "a/b"), "D\x03adm\x02a/", "\x00", "L\x03adm\x02a/", text("a/b"), "L\x03adm\x10"+strings.Repeat("z", 16), text())
 }
+
+// Only what changes something must be made safe.
+func TestChanges(t *testing.T) {
+	s := New("adm")
+	expect(t, s, "P\x03adm\x01a\x01v", "\x00\x01", "T\x03adm\x03joe\x00\x01", "\x00")
+	for request, want := range map[string]bool{
+		"P\x03adm\x01a\x01v":      true,
+		"P\x03joe\x01a\x01v":      false,
+		"G\x03adm\x01a\x00":       false,
+		"L\x03adm\x00":            false,
+		"D\x03adm\x01a":           true,
+		"D\x03adm\x01b":           false,
+		"T\x03adm\x03eve\x00\x01": true,
+		"T\x03adm\x03joe\x00\x01": false,
+		"R\x03adm\x03joe":         true,
+		"R\x03adm\x03adm":         false,
+		"R\x03adm\x03eve":         false,
+	} {
+		q, ok := requests.Read(request)
+		if got := s.Ask(q).Changes(); !ok || got != want {
+			t.Errorf("P11: whether %q changes something: %v, want %v", request, got, want)
+		}
+	}
+}
